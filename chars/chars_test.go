@@ -46,6 +46,7 @@ func TestIn(t *testing.T) {
 		{"open, seen as far as that", api.Char{By: 0, In: api.Open}, api.Open, 1, true},
 		{"no writer asks, at seen", api.Char{By: 0, In: 3}, 3, -1, true},
 		{"no writer asks, above seen", api.Char{By: 0, In: 4}, 3, 4, false},
+		{"no writer asks, of what has its number", api.Char{By: -1, In: 4}, 3, -1, true},
 		{"seen below 0", api.Char{By: 0, In: 0}, -1, 1, false},
 		{"gone, but put in", api.Char{By: 0, In: 1, Out: 2, Gone: 15}, 3, 1, true},
 	} {
