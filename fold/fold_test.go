@@ -453,6 +453,54 @@ func TestText(t *testing.T) {
 	}
 }
 
+// Out alone, not Gone, says whether a deed with a number took a byte away: Open is the number of what has none yet.
+func TestTextOut(t *testing.T) {
+	for _, x := range []struct {
+		name string
+		out  int
+		want string
+	}{
+		{"none", 0, "a"},
+		{"the first number", 1, ""},
+		{"an ordinary number", 2, ""},
+		{"the last number of a log", api.MaxLog, ""},
+		{"just below Open", api.Open - 1, ""},
+		{"Open", api.Open, "a"},
+		{"just above Open", api.Open + 1, ""},
+	} {
+		for gone := range 1 << api.MaxWriters {
+			c := api.Char{C: 'a', No: 1, In: 1, Out: x.out, Gone: gone}
+			if got := Text([]api.Char{c}); got != x.want {
+				t.Errorf("%s, Gone is %d: %q, want %q", x.name, gone, got, x.want)
+			}
+			around := []api.Char{{C: '(', No: 2, In: 2}, c, {C: ')', No: 2, K: 1, In: 2}}
+			if got := Text(around); got != "("+x.want+")" {
+				t.Errorf("%s, Gone is %d, between others: %q, want %q", x.name, gone, got, "("+x.want+")")
+			}
+			c.In = api.Open
+			if got := Text([]api.Char{c}); got != "" {
+				t.Errorf("%s, Gone is %d, put in by what has no number: %q", x.name, gone, got)
+			}
+		}
+	}
+}
+
+// A byte is in the text until what takes it away has a number.
+func TestTextWhenTheTakeIsNumbered(t *testing.T) {
+	for _, out := range []int{0, api.Open} {
+		l := []api.Char{{C: 'a', No: 1, In: 1, Out: out}, {C: 'b', No: 1, K: 1, In: 1}}
+		d := takes(1, 1, 1, 0, 1)
+		open, code := Do(l, d, api.Open)
+		if code != 0 || Text(open) != "ab" {
+			t.Errorf("Out was %d, open: %q, code %d", out, Text(open), code)
+		}
+		numbered, code := Do(l, d, 2)
+		if code != 0 || Text(numbered) != "b" {
+			t.Errorf("Out was %d, numbered: %q, code %d", out, Text(numbered), code)
+		}
+	}
+}
+
 // roomy is the list with memory behind its length, that must stay as it is.
 func roomy[T any](l []T, behind T) (list, whole []T) {
 	whole = append(slices.Clone(l), slices.Repeat([]T{behind}, 40)...)
